@@ -220,7 +220,7 @@ func lexByPattern(s string) ([]impl.Token, int) {
 	return list, 0
 }
 
-func TestLexOfAllShortTexts(t *testing.T) {
+func TestLexOfAllTextsOfFewParts(t *testing.T) {
 	parts := []string{"a", "in", "7", "=", "(", " ", "\n", "!", "abcd", "1234"}
 	texts := []string{""}
 	for range 5 {
