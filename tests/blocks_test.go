@@ -389,10 +389,13 @@ func wantGraphOk(t *testing.T, name string, g impl.Graph, want bool) {
 	}
 }
 
+func gets(n int) []impl.Instr { return slices.Repeat([]impl.Instr{{Op: impl.InGet}}, n) }
+
+// bare makes blocks without steps, each of which goes to block 0.
+func bare(n int) []impl.Block { return make([]impl.Block, n) }
+
 func TestGraphOkOfOneChange(t *testing.T) {
 	wantGraphOk(t, "the graph to be changed", sample(), true)
-	gets := func(n int) []impl.Instr { return slices.Repeat([]impl.Instr{{Op: impl.InGet}}, n) }
-	blocks := func(n int) []impl.Block { return make([]impl.Block, n) }
 	good := map[string]func(g *impl.Graph){
 		"four regions":      func(g *impl.Graph) { g.Sizes = []int{1, 16, 1, 16} },
 		"no parameter":      func(g *impl.Graph) { g.Params = 0 },
@@ -400,14 +403,14 @@ func TestGraphOkOfOneChange(t *testing.T) {
 		"six":               func(g *impl.Graph) { g.Params, g.Vars, g.Slots = 6, 6, 6 },
 		"most variables":    func(g *impl.Graph) { g.Vars, g.Slots = 20, 20 },
 		"slots as Vars":     func(g *impl.Graph) { g.Params, g.Vars = 0, 5 },
-		"no slot":           func(g *impl.Graph) { g.Params, g.Vars, g.Slots, g.Blocks = 0, 0, 0, blocks(1) },
+		"no slot":           func(g *impl.Graph) { g.Params, g.Vars, g.Slots, g.Blocks = 0, 0, 0, bare(1) },
 		"most slots":        func(g *impl.Graph) { g.Slots = impl.MaxSlots },
 		"the last of most":  func(g *impl.Graph) { g.Slots = impl.MaxSlots; g.Blocks[2].A = impl.MaxSlots - 1 },
-		"one block":         func(g *impl.Graph) { g.Blocks = blocks(1) },
-		"most blocks":       func(g *impl.Graph) { g.Blocks = blocks(impl.MaxBlocks) },
+		"one block":         func(g *impl.Graph) { g.Blocks = bare(1) },
+		"most blocks":       func(g *impl.Graph) { g.Blocks = bare(impl.MaxBlocks) },
 		"most steps":        func(g *impl.Graph) { g.Blocks[2].Code = gets(impl.MaxCode - 9) },
-		"most in one block": func(g *impl.Graph) { g.Blocks = blocks(1); g.Blocks[0].Code = gets(impl.MaxCode) },
-		"the last block":    func(g *impl.Graph) { g.Blocks = blocks(impl.MaxBlocks); g.Blocks[9].To = impl.MaxBlocks - 1 },
+		"most in one block": func(g *impl.Graph) { g.Blocks = bare(1); g.Blocks[0].Code = gets(impl.MaxCode) },
+		"the last block":    func(g *impl.Graph) { g.Blocks = bare(impl.MaxBlocks); g.Blocks[9].To = impl.MaxBlocks - 1 },
 		"empty lists":       func(g *impl.Graph) { g.Blocks[2].Code = []impl.Instr{} },
 	}
 	for name, change := range good {
@@ -415,10 +418,17 @@ func TestGraphOkOfOneChange(t *testing.T) {
 		change(&g)
 		wantGraphOk(t, name, g, true)
 	}
-	bad := map[string]func(g *impl.Graph){
+	for name, g := range wrongGraphs() {
+		wantGraphOk(t, name, g, false)
+	}
+}
+
+// wrongGraphs are graphs that are not GraphOk, each for one reason; each call makes them anew.
+func wrongGraphs() map[string]impl.Graph {
+	changes := map[string]func(g *impl.Graph){
 		"the zero value":      func(g *impl.Graph) { *g = impl.Graph{} },
 		"no region":           func(g *impl.Graph) { g.Sizes = nil },
-		"no region, no step":  func(g *impl.Graph) { g.Sizes = nil; g.Blocks = blocks(1) },
+		"no region, no step":  func(g *impl.Graph) { g.Sizes = nil; g.Blocks = bare(1) },
 		"five regions":        func(g *impl.Graph) { g.Sizes = []int{1, 1, 1, 1, 1} },
 		"size 0":              func(g *impl.Graph) { g.Sizes[1] = 0 },
 		"size 17":             func(g *impl.Graph) { g.Sizes[0] = 17 },
@@ -429,15 +439,15 @@ func TestGraphOkOfOneChange(t *testing.T) {
 		"variables below 0":   func(g *impl.Graph) { g.Params, g.Vars = -1, -1 },
 		"too many variables":  func(g *impl.Graph) { g.Vars, g.Slots = 21, 30 },
 		"slots below Vars":    func(g *impl.Graph) { g.Vars = 6 },
-		"slots below 0":       func(g *impl.Graph) { g.Params, g.Vars, g.Slots, g.Blocks = 0, 0, -1, blocks(1) },
+		"slots below 0":       func(g *impl.Graph) { g.Params, g.Vars, g.Slots, g.Blocks = 0, 0, -1, bare(1) },
 		"one slot less":       func(g *impl.Graph) { g.Slots = 4 },
 		"one slot more":       func(g *impl.Graph) { g.Slots = impl.MaxSlots + 1 },
 		"far more":            func(g *impl.Graph) { g.Slots = math.MaxInt },
 		"no block":            func(g *impl.Graph) { g.Blocks = nil },
 		"an empty list":       func(g *impl.Graph) { g.Blocks = []impl.Block{} },
-		"one block more":      func(g *impl.Graph) { g.Blocks = blocks(impl.MaxBlocks + 1) },
+		"one block more":      func(g *impl.Graph) { g.Blocks = bare(impl.MaxBlocks + 1) },
 		"one step more":       func(g *impl.Graph) { g.Blocks[2].Code = gets(impl.MaxCode - 8) },
-		"more in one block":   func(g *impl.Graph) { g.Blocks = blocks(1); g.Blocks[0].Code = gets(impl.MaxCode + 1) },
+		"more in one block":   func(g *impl.Graph) { g.Blocks = bare(1); g.Blocks[0].Code = gets(impl.MaxCode + 1) },
 		"a block gone":        func(g *impl.Graph) { g.Blocks = g.Blocks[:2] },
 		"a region gone":       func(g *impl.Graph) { g.Sizes = g.Sizes[:1] },
 		"a step of no Op":     func(g *impl.Graph) { g.Blocks[1].Code[3].Op = 7 },
@@ -450,11 +460,13 @@ func TestGraphOkOfOneChange(t *testing.T) {
 		"no block to go to":   func(g *impl.Graph) { g.Blocks[1].To = 3 },
 		"a block below 0":     func(g *impl.Graph) { g.Blocks[0].Else = -1 },
 	}
-	for name, change := range bad {
+	graphs := map[string]impl.Graph{}
+	for name, change := range changes {
 		g := sample()
 		change(&g)
-		wantGraphOk(t, name, g, false)
+		graphs[name] = g
 	}
+	return graphs
 }
 
 // fieldsOf tells of each Op what its D, A, B, C and N can be: a slot, a slot or none (-1), a region, any number, or only 0.

@@ -450,14 +450,15 @@ func start(seed int64) (impl.Program, []int, []int) {
 	if r.Intn(4) > 0 {
 		smallList(p.Body, r.Intn(6)+1)
 	}
-	args, input := []int{}, []int{}
-	for range p.Params {
-		args = append(args, someNumber(r))
+	return p, someNumbers(r, p.Params), someNumbers(r, r.Intn(8))
+}
+
+func someNumbers(r *rand.Rand, n int) []int {
+	list := []int{}
+	for range n {
+		list = append(list, someNumber(r))
 	}
-	for range r.Intn(8) {
-		input = append(input, someNumber(r))
-	}
-	return p, args, input
+	return list
 }
 
 func someNumber(r *rand.Rand) int {
