@@ -7,15 +7,16 @@ import (
 	"loop.example/g00385/impl"
 )
 
-// A backLook tells slots of a block from behind: by the step that made them last, and by what that one used.
+// A backLook tells slots of a block from behind: by the step that made them last, and by what that one used; and, where none made them, by what is held of them as the block begins.
 type backLook struct {
 	code    []impl.Instr
+	held    map[int]int
 	numbers map[int]*int
 	sources map[[2]int]int
 }
 
-func lookBack(code []impl.Instr) backLook {
-	return backLook{slices.Clone(code), map[int]*int{}, map[[2]int]int{}}
+func lookBack(code []impl.Instr, held map[int]int) backLook {
+	return backLook{slices.Clone(code), held, map[int]*int{}, map[[2]int]int{}}
 }
 
 func makesSlot(x impl.Instr, slot int) bool { return fieldsOf[x.Op][0] == 's' && x.D == slot }
@@ -26,6 +27,9 @@ func (l backLook) number(slot int, step int) *int {
 		if makesSlot(l.code[i], slot) {
 			return l.made(i)
 		}
+	}
+	if n, there := l.held[slot]; there {
+		return &n
 	}
 	return nil
 }
@@ -53,9 +57,14 @@ func (l backLook) made(step int) *int {
 
 // reckoned is Fold of a graph that is GraphOk, told a second time: step by step, from behind.
 func reckoned(g impl.Graph) impl.Graph {
+	return reckonedWith(g, make([]map[int]int, len(g.Blocks)))
+}
+
+// reckonedWith is told what is held of slots as each block begins.
+func reckonedWith(g impl.Graph, held []map[int]int) impl.Graph {
 	g = otherGraph(g)
 	for at, b := range g.Blocks {
-		l := lookBack(b.Code)
+		l := lookBack(b.Code, held[at])
 		if n := l.number(b.A, len(b.Code)); b.Jump == impl.JmIf && n != nil {
 			to := b.To
 			if *n == 0 {
@@ -106,7 +115,7 @@ func (l backLook) anew(slot int, step int) bool {
 func copied(g impl.Graph) impl.Graph {
 	g = otherGraph(g)
 	for at, b := range g.Blocks {
-		l := lookBack(b.Code)
+		l := lookBack(b.Code, nil)
 		if b.Jump != impl.JmGo {
 			g.Blocks[at].A = l.source(b.A, len(b.Code))
 		}
