@@ -469,6 +469,18 @@ func wrongGraphs() map[string]impl.Graph {
 	return graphs
 }
 
+// farGraphs tells graphs that are not GraphOk, since their steps, and their Jumps, have any numbers.
+func farGraphs(yield func(name string, g impl.Graph)) {
+	far := []int{math.MinInt, -2, -1, 0, 1, 5, 1000, math.MaxInt}
+	for _, op := range []int{math.MinInt, -1, 0, 1, 2, 3, 4, 5, 6, 7, 8, math.MaxInt} {
+		for i := range far {
+			x := impl.Instr{Op: op, D: far[i], A: far[(i+1)%8], B: far[(i+2)%8], C: far[(i+3)%8], N: far[(i+4)%8], Text: "/"}
+			yield(plain(x), withCode(5, []impl.Instr{x, x}))
+			yield(plain(x), impl.Graph{Slots: -1, Blocks: []impl.Block{{Code: []impl.Instr{x, x}, Jump: far[i], A: far[(i+5)%8]}}})
+		}
+	}
+}
+
 // fieldsOf tells of each Op what its D, A, B, C and N can be: a slot, a slot or none (-1), a region, any number, or only 0.
 var fieldsOf = [7]string{"s000n", "ss000", "sss00", "sos0r", "0ossr", "s0000", "0s000"}
 

@@ -814,14 +814,7 @@ func TestFactsOfWrongGraphs(t *testing.T) {
 	for _, p := range []impl.Program{withExps(20, impl.MaxSlots-20), withBlocks(impl.MaxBlocks + 1), withSteps(impl.MaxCode + 1)} {
 		wantNoFacts(t, "a long program", impl.Lower(p))
 	}
-	far := []int{math.MinInt, -2, -1, 0, 1, 5, 1000, math.MaxInt}
-	for _, op := range []int{math.MinInt, -1, 0, 1, 2, 3, 4, 5, 6, 7, 8, math.MaxInt} {
-		for i := range far {
-			x := impl.Instr{Op: op, D: far[i], A: far[(i+1)%8], B: far[(i+2)%8], C: far[(i+3)%8], N: far[(i+4)%8], Text: "/"}
-			wantNoFacts(t, plain(x), withCode(5, []impl.Instr{x, x}))
-			wantNoFacts(t, plain(x), impl.Graph{Slots: -1, Blocks: []impl.Block{{Code: []impl.Instr{x, x}, Jump: far[i], A: far[(i+5)%8]}}})
-		}
-	}
+	farGraphs(func(name string, g impl.Graph) { wantNoFacts(t, name, g) })
 }
 
 // factGraphs are right and wrong ones.
