@@ -216,42 +216,50 @@ func deadOf(m impl.Image) []int {
 type runner struct {
 	tale
 	sizes  []int
+	lines  [][]string
+	at     int
 	values map[string]int
 	input  []int
 	over   bool
 }
 
-// ranCode is what an image that is ImageOk does, of at most that many takes of fuel.
-func ranCode(m impl.Image, args []int, input []int, most int) tale {
+// newRunner is of an image that is ImageOk.
+func newRunner(m impl.Image, args []int, input []int) *runner {
 	r := runner{sizes: m.Sizes, values: map[string]int{}, input: input}
 	for i, n := range args {
 		r.values[fmt.Sprint("s", i)] = n
 	}
-	lines := [][]string{}
 	for _, line := range strings.Split(wordsText(m.Code), "\n") {
-		lines = append(lines, strings.Fields(line))
+		r.lines = append(r.lines, strings.Fields(line))
 	}
-	for at := 0; !r.over; {
+	return &r
+}
+
+// ranCode is what an image that is ImageOk does, of at most that many takes of fuel.
+func ranCode(m impl.Image, args []int, input []int, most int) tale {
+	r := newRunner(m, args, input)
+	for !r.over {
 		r.ahead = append(r.ahead, len(r.out))
 		if len(r.ahead) > most {
 			r.stop(impl.End{Code: impl.EndFuel})
 			break
 		}
-		at = r.line(at, lines[at])
+		r.at = r.line(r.lines[r.at])
 	}
 	return r.tale
 }
 
 func (r *runner) stop(e impl.End) { r.end, r.over = e, true }
 
-// line tells the one that comes next.
-func (r *runner) line(at int, words []string) int {
+// line tells the one that comes next: behind the last one of a run that one itself.
+func (r *runner) line(words []string) int {
 	name, to, a, b := words[1], "r"+words[2], "r"+words[3], "r"+words[4]
 	n, _ := strconv.Atoi(words[5])
 	slot, cell := "s"+words[5], fmt.Sprint("m", n, ".", r.values[a])
 	if name == "lx" || name == "sx" {
 		if !slices.Contains(upTo(r.sizes[n]), r.values[a]) {
 			r.stop(impl.End{Code: impl.EndTrap})
+			return r.at
 		}
 	}
 	switch name {
@@ -276,11 +284,12 @@ func (r *runner) line(at int, words []string) int {
 		r.out = append(r.out, r.values[to])
 	case "ret":
 		r.stop(impl.End{Code: impl.EndDone, Val: r.values[to]})
+		return r.at
 	}
 	if name == "jmp" || name == "jz" && r.values[to] == 0 {
 		return n
 	}
-	return at + 1
+	return r.at + 1
 }
 
 // madeImage tells an image that no graph may have, and what it is begun with; a seed has always the same. Many of its words are loads of what was just stored.
