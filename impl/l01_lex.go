@@ -142,12 +142,8 @@ func isDigit(b byte) bool { return '0' <= b && b <= '9' }
 func DecText(n int) string { return strconv.Itoa(n) }
 
 func ReadInt(s string) (int, bool) {
-	n, err := strconv.Atoi(s)
-	if err != nil || n < -maxReadInt || n > maxReadInt {
-		return 0, false
-	}
-	// Atoi takes a plus and noughts ahead, too: the text that belongs to the number decides.
-	if DecText(n) != s {
+	n, ok := ReadNum(s)
+	if !ok || n < -maxReadInt || n > maxReadInt {
 		return 0, false
 	}
 	return n, true
