@@ -51,7 +51,7 @@ const (
 )
 
 var (
-	asmHeads = []*regexp.Regexp{asmLine("mem( .*)"), asmLine("params %d"), asmLine("slots %d")}
+	asmHeads = []*regexp.Regexp{asmLine("mem( .*)?"), asmLine("params %d"), asmLine("slots %d")}
 	asmWords = map[string]*regexp.Regexp{}
 )
 
@@ -114,6 +114,10 @@ func takeLine(m *impl.Image, at int, line string) bool {
 	found := asmHeads[at].FindStringSubmatch(line)
 	if found == nil {
 		return false
+	}
+	// Behind mem alone stands no blank, so there is no number.
+	if at == 0 && found[1] == "" {
+		return true
 	}
 	list, ok := numsAgain(strings.Split(strings.TrimPrefix(found[1], " "), " "))
 	if !ok {

@@ -125,7 +125,7 @@ func TestReadAsmOfOneWrongLine(t *testing.T) {
 		t.Fatalf("the lines to be changed: %d", line)
 	}
 	heads := [][]string{
-		{"mem", "mem ", "mem x", "mem 4 x", "mem x 4", "mem 4,2", "mem r4", "Mem 4", "me 4", "memm 4", "4 2", "mem4 2", "mem 4 2;", "mem 4 2 mem", "mem: 4", "mem -0", "mem 04"},
+		{"mem ", "mem  ", "mem x", "mem 4 x", "mem x 4", "mem 4,2", "mem r4", "Mem 4", "me 4", "memm 4", "4 2", "mem4 2", "mem 4 2;", "mem;", "mem\x00", "mem 4 2 mem", "mem mem", "mem  4", "mem 4  2", "mem: 4", "mem -0", "mem 04"},
 		{"params", "params ", "params x", "params 1 1", "params 1 ", "params r1", "param 1", "parameters 1", "1", "slots 1", "mem 1", "params1", "params 01", "params -0", "params +1"},
 		{"slots", "slots ", "slots x", "slots 3 3", "slots s3", "slot 3", "3", "params 3", "mem 3", "slots3", "slots 03", "slots +3", "slots 3 x"},
 	}
@@ -194,7 +194,7 @@ func TestReadAsmOfTwoWrongLines(t *testing.T) {
 
 func TestReadAsmOfFewLines(t *testing.T) {
 	for s, line := range map[string]int{
-		"": 1, "\n": 1, "\n\n": 1, "x": 1, "x\n": 1, "mem": 1, "mem 1": 1, "mem\n": 1, "mem 1\n": 2, "mem 1\n\n": 2, "mem 1\nparams 0": 2, "mem 1\nparams 0\n": 3, "mem 1\nparams 0\nx": 3, "mem 1\nparams 0\nslots 1": 3,
+		"": 1, "\n": 1, "\n\n": 1, "x": 1, "x\n": 1, "mem": 1, "mem 1": 1, "mem \n": 1, "mem\n": 2, "mem\n\n": 2, "mem\nparams 0": 2, "mem\nparams 0\n": 3, "mem\nparams 0\nslots 1\n": 4, "mem\n 16\nparams 0\n": 2, "mem\n1\n": 2, "mem 1\n": 2, "mem 1\n\n": 2, "mem 1\nparams 0": 2, "mem 1\nparams 0\n": 3, "mem 1\nparams 0\nx": 3, "mem 1\nparams 0\nslots 1": 3,
 		// Each of three lines is one; but there is no image without a word.
 		"mem 1\nparams 0\nslots 1\n": 4, "mem 1\nparams 0\nslots 1\n\n": 4, "mem 1\nparams 0\nslots 1\nx": 4, "mem 1\nparams 0\nslots 1\nret r0": 4,
 		"mem 1\nparams 0\nslots 1\nret r0\n\n": 5, "mem 1\nparams 0\nslots 1\nret r0\n\nret r0\n": 5, "mem 1\nparams 0\nslots 1\n\nret r0\n": 4, "\nmem 1\nparams 0\nslots 1\nret r0\n": 1, "mem 1\n\nparams 0\nslots 1\nret r0\n": 2, "mem 1\nparams 0\n\nslots 1\nret r0\n": 3,
@@ -306,6 +306,15 @@ func TestReadAsmAtTheLimits(t *testing.T) {
 		"more, and a wrong": {"mem 1\nparams 0\nslots 1\n" + words(7000) + "x\n", 7004},
 		"one region":        {"mem 1\nparams 0\nslots 1\nlx r0 m0 r0\nret r0\n", 0},
 		"four regions":      {"mem 16 1 16 1\nparams 0\nslots 1\nlx r0 m3 r0\nret r0\n", 0},
+		"no region":         {"mem\nparams 0\nslots 1\nret r0\n", 5},
+		"none, more words":  {"mem\nparams 0\nslots 1\nli r0 7\nmv r1 r0\nret r1\n", 7},
+		"none, region 0":    {"mem\nparams 0\nslots 1\nlx r0 m0 r0\nret r0\n", 6},
+		"none, no words":    {"mem\nparams 0\nslots 1\n", 4},
+		"none, and a wrong": {"mem\nparams 0\nslots 1\nret 0\n", 4},
+		"none, no newline":  {"mem\nparams 0\nslots 1\nret r0", 4},
+		"none, no params":   {"mem\nparams\nslots 1\nret r0\n", 2},
+		"none, no slots":    {"mem\nparams 0\nslots\nret r0\n", 3},
+		"none, and a blank": {"mem \nparams 0\nslots 1\nret r0\n", 1},
 		"five regions":      {"mem 1 1 1 1 1\nparams 0\nslots 1\nret r0\n", 5},
 		"size 0":            {"mem 0\nparams 0\nslots 1\nret r0\n", 5},
 		"size 16":           {"mem 16\nparams 0\nslots 1\nret r0\n", 0},
@@ -373,7 +382,7 @@ func TestAsmOfWrongImages(t *testing.T) {
 		told := !slices.ContainsFunc(m.Code, func(w impl.Word) bool {
 			return w.Op < 0 || w.Op > 11 || w.Op == impl.OpAlu && (w.N < 0 || w.N > 5) || strings.Contains(name, " with ")
 		})
-		if told && len(m.Sizes) > 0 {
+		if told {
 			wantNoAsm(t, asmAgain(m), len(m.Code)+4)
 			texts++
 		}
